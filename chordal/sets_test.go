@@ -293,7 +293,7 @@ func TestTree(t *testing.T) {
 				parent[i] = r.Intn(n+1) - 1
 			}
 			ok, e := CheckTree(g, parent)
-			want(t, "CheckTree", ok, e, f == api.OK && slowIsTree(g, parent), errOf(f == api.OK, api.ErrState))
+			want(t, "CheckTree", ok, e, f == api.OK && slowIsTree(g, parent), errIf(f == api.OK, api.ErrState))
 		}
 	})
 	for _, parent := range [][]int{nil, {-1}, {-1, -1}, {1, 0}, {-1, 1}, {-1, 2}, {0, -2}, {-1, 0, 0}, {-1, 1 << 62}} {

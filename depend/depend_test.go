@@ -59,6 +59,19 @@ func want[T any](t *testing.T, what string, got T, e api.Errno, expect T, err ap
 	}
 }
 
+// errOf returns the error of a call, and -1 if another result of a call with an error is not empty.
+func errOf(results ...any) api.Errno {
+	last := len(results) - 1
+	e := results[last].(api.Errno)
+	for _, x := range results[:last] {
+		v := reflect.ValueOf(x)
+		if e != api.OK && !v.IsZero() && (v.Kind() != reflect.Slice || v.Len() > 0) {
+			return -1
+		}
+	}
+	return e
+}
+
 func TestClosureFollows(t *testing.T) {
 	for set, c := range []int{0, 7, 6, 7, 4, 7, 6, 7} {
 		got, e := Closure(3, chain, set)
@@ -82,18 +95,18 @@ func TestArguments(t *testing.T) {
 		l []Dep
 	}{{0, nil}, {-1, nil}, {9, nil}, {1 << 62, nil}, {3, many}, {3, []Dep{{8, 0}}}, {3, []Dep{{0, 8}}}, {3, []Dep{{-1, 0}}}, {3, []Dep{{0, -1}}}} {
 		d := Dep{0, 0}
-		_, e1 := Closure(x.n, x.l, 0)
-		_, e2 := Follows(x.n, x.l, d)
-		_, e3 := Prove(x.n, x.l, d)
-		_, e4 := Check(x.n, x.l, nil)
-		_, e5 := Refute(x.n, x.l, d)
-		_, e6 := Keys(x.n, x.l)
-		_, e7 := Critical(x.n, x.l)
-		_, e8 := Armstrong(x.n, x.l)
-		_, e9 := Chase(x.n, x.l, []int{7})
-		_, e10 := Lossless(x.n, x.l, []int{7})
-		_, e11 := Violation(x.n, x.l, 0)
-		_, e12 := Decompose(x.n, x.l)
+		e1 := errOf(Closure(x.n, x.l, 0))
+		e2 := errOf(Follows(x.n, x.l, d))
+		e3 := errOf(Prove(x.n, x.l, d))
+		e4 := errOf(Check(x.n, x.l, nil))
+		e5 := errOf(Refute(x.n, x.l, d))
+		e6 := errOf(Keys(x.n, x.l))
+		e7 := errOf(Critical(x.n, x.l))
+		e8 := errOf(Armstrong(x.n, x.l))
+		e9 := errOf(Chase(x.n, x.l, []int{7}))
+		e10 := errOf(Lossless(x.n, x.l, []int{7}))
+		e11 := errOf(Violation(x.n, x.l, 0))
+		e12 := errOf(Decompose(x.n, x.l))
 		for i, e := range []api.Errno{e1, e2, e3, e4, e5, e6, e7, e8, e9, e10, e11, e12} {
 			if e != api.ErrArg {
 				t.Error(x, i, e)
@@ -104,15 +117,15 @@ func TestArguments(t *testing.T) {
 		t.Error("12 dependencies are allowed", e)
 	}
 	for _, s := range []int{-1, 8, -1 << 63, 1<<63 - 1} {
-		_, e1 := Closure(3, chain, s)
-		_, e2 := Follows(3, chain, Dep{s, 0})
-		_, e3 := Follows(3, chain, Dep{0, s})
-		_, e4 := Prove(3, chain, Dep{0, s})
-		_, e5 := Refute(3, chain, Dep{s, 1})
-		_, e6 := Violation(3, chain, s)
-		_, e7 := Chase(3, chain, []int{7, s})
-		_, e8 := Lossless(3, chain, []int{s, 7})
-		_, e9 := Holds(3, nil, Dep{s, 0})
+		e1 := errOf(Closure(3, chain, s))
+		e2 := errOf(Follows(3, chain, Dep{s, 0}))
+		e3 := errOf(Follows(3, chain, Dep{0, s}))
+		e4 := errOf(Prove(3, chain, Dep{0, s}))
+		e5 := errOf(Refute(3, chain, Dep{s, 1}))
+		e6 := errOf(Violation(3, chain, s))
+		e7 := errOf(Chase(3, chain, []int{7, s}))
+		e8 := errOf(Lossless(3, chain, []int{s, 7}))
+		e9 := errOf(Holds(3, nil, Dep{s, 0}))
 		for i, e := range []api.Errno{e1, e2, e3, e4, e5, e6, e7, e8, e9} {
 			if e != api.ErrArg {
 				t.Error(s, i, e)

@@ -16,9 +16,9 @@ func TestChase(t *testing.T) {
 	want(t, "replaced by the lesser", rows, e, [][]int{{0, 0, 1}, {0, 2, 1}, {3, 0, 0}}, api.OK)
 	rows, e = Chase(2, []Dep{{0, 1}, {0, 2}}, []int{0, 3, 0})
 	want(t, "empty parts", rows, e, [][]int{{0, 0}, {0, 0}, {0, 0}}, api.OK)
-	for _, parts := range [][]int{nil, {}, {3}, {3, 2}, {1, 2, 4, 1, 2, 4, 1, 2, 4}} {
-		_, e1 := Chase(3, chain, parts)
-		_, e2 := Lossless(3, chain, parts)
+	for _, parts := range [][]int{nil, {}, {3}, {6}, {3, 2}, {1, 2, 4, 1, 2, 4, 1, 2, 4}} {
+		e1 := errOf(Chase(3, chain, parts))
+		e2 := errOf(Lossless(3, chain, parts))
 		if e1 != api.ErrArg || e2 != api.ErrArg {
 			t.Error(parts, e1, e2)
 		}

@@ -35,14 +35,14 @@ func TestHolds(t *testing.T) {
 	ok, e = Holds(1, same, Dep{0, 1})
 	want(t, "60 equal rows", ok, e, true, api.OK)
 	for _, rows := range [][][]int{append(same, []int{1}), {{1, 2}}, {nil}} {
-		_, e1 := Holds(1, rows, Dep{})
-		_, e2 := Mine(1, rows)
+		e1 := errOf(Holds(1, rows, Dep{}))
+		e2 := errOf(Mine(1, rows))
 		if e1 != api.ErrArg || e2 != api.ErrArg {
 			t.Error(len(rows), e1, e2)
 		}
 	}
-	_, e1 := Holds(0, nil, Dep{})
-	_, e2 := Mine(9, nil)
+	e1 := errOf(Holds(0, nil, Dep{}))
+	e2 := errOf(Mine(9, nil))
 	if e1 != api.ErrArg || e2 != api.ErrArg {
 		t.Error(e1, e2)
 	}

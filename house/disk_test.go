@@ -4,6 +4,7 @@ import (
 	"math/rand"
 	"reflect"
 	"slices"
+	"strings"
 	"testing"
 
 	"cubeb/api"
@@ -14,6 +15,19 @@ func want[T any](t *testing.T, what string, got T, e api.Errno, expect T, err ap
 	if e != err || !reflect.DeepEqual(got, expect) {
 		t.Errorf("%s: got %v, %d; want %v, %d", what, got, e, expect, err)
 	}
+}
+
+// errOf returns the error of a call, and -1 if another result of a call with an error is not empty.
+func errOf(results ...any) api.Errno {
+	last := len(results) - 1
+	e := results[last].(api.Errno)
+	for _, x := range results[:last] {
+		v := reflect.ValueOf(x)
+		if e != api.OK && !v.IsZero() && (v.Kind() != reflect.Slice || v.Len() > 0) {
+			return -1
+		}
+	}
+	return e
 }
 
 func newDisk(t *testing.T, size int) *Disk {
@@ -120,8 +134,8 @@ func TestNotMade(t *testing.T) {
 	d := newDisk(t, 10)
 	other := *d
 	for _, d := range []*Disk{nil, {}, &other} {
-		_, e1 := d.Read()
-		_, e2 := Open(d, nil)
+		e1 := errOf(d.Read())
+		e2 := errOf(Open(d, nil))
 		for i, e := range []api.Errno{d.Append(make([]byte, 11)), d.Sync(), d.Cut(-1), e1, e2} {
 			if e != api.ErrNil {
 				t.Error(i, e)
@@ -133,9 +147,9 @@ func TestNotMade(t *testing.T) {
 	h, _ := Open(d, path)
 	twin := *h
 	for _, h := range []*House{nil, {}, &twin} {
-		_, e1 := h.Do("x")
-		_, e2 := h.Ask("x")
-		_, e3 := h.Day(make([]Call, 13))
+		e1 := errOf(h.Do("x"))
+		e2 := errOf(h.Ask("x"))
+		e3 := errOf(h.Day(make([]Call, 13)))
 		for i, e := range []api.Errno{e1, e2, e3} {
 			if e != api.ErrNil {
 				t.Error(i, e)
@@ -159,6 +173,32 @@ func TestDurability(t *testing.T) {
 			for keep := range 18 {
 				tryPowerLoss(t, r, lines, fuse, keep)
 			}
+		}
+	}
+}
+
+func TestOpenPower(t *testing.T) {
+	for _, x := range []struct {
+		bytes      string
+		operations int
+	}{{"take mace 5\n", 1}, {"take mace 5\ntake", 2}, {"", 1}} {
+		for fuse := range 3 {
+			d := newDisk(t, 100)
+			d.Append([]byte(x.bytes))
+			d.Fuse(fuse)
+			h, e := Open(d, path)
+			if fuse < x.operations {
+				if h != nil || e != api.ErrPower {
+					t.Error(x, fuse, e)
+				}
+				continue
+			}
+			_, f := h.Do("take salt 5")
+			if e != api.OK || (f == api.OK) != (fuse-x.operations >= 2) {
+				t.Error(x, fuse, e, f)
+			}
+			d.Crash(0)
+			want(t, "what Open found is safe", len(h.Journal()), e, strings.Count(x.bytes, "\n"), api.OK)
 		}
 	}
 }

@@ -17,6 +17,19 @@ func want[T any](t *testing.T, what string, got T, e api.Errno, expect T, err ap
 	}
 }
 
+// errOf returns the error of a call, and -1 if another result of a call with an error is not empty.
+func errOf(results ...any) api.Errno {
+	last := len(results) - 1
+	e := results[last].(api.Errno)
+	for _, x := range results[:last] {
+		v := reflect.ValueOf(x)
+		if e != api.OK && !v.IsZero() && (v.Kind() != reflect.Slice || v.Len() > 0) {
+			return -1
+		}
+	}
+	return e
+}
+
 func someText(r *rand.Rand, size int, letters string) string {
 	b := make([]byte, r.Intn(size+1))
 	for i := range b {
@@ -45,17 +58,17 @@ var badLabels = []string{"\n", "a\x1f", "\x7f", "a\x00", "\xff", "é", strings.R
 func TestLabels(t *testing.T) {
 	x, _ := New("abab")
 	for _, s := range badLabels {
-		_, e1 := Sort(s)
-		_, e2 := Common(s)
-		_, e3 := Transform(s)
-		_, e4 := New(s)
-		_, e5 := x.Count(s)
-		_, e6 := x.Locate(s)
-		_, e7 := Longest(s)
-		_, e8 := Distinct(s)
-		_, e9 := Absent(s, "a")
-		_, e10 := Match(s, "a")
-		_, e11 := Match("a", s)
+		e1 := errOf(Sort(s))
+		e2 := errOf(Common(s))
+		e3 := errOf(Transform(s))
+		e4 := errOf(New(s))
+		e5 := errOf(x.Count(s))
+		e6 := errOf(x.Locate(s))
+		e7 := errOf(Longest(s))
+		e8 := errOf(Distinct(s))
+		e9 := errOf(Absent(s, "a"))
+		e10 := errOf(Match(s, "a"))
+		e11 := errOf(Match("a", s))
 		for i, e := range []api.Errno{e1, e2, e3, e4, e5, e6, e7, e8, e9, e10, e11} {
 			if e != api.ErrArg {
 				t.Error(s, i, e)
@@ -122,8 +135,8 @@ func TestBack(t *testing.T) {
 		want(t, "Back of "+s, l, e, "", api.ErrForm)
 	}
 	for _, s := range []string{"a\t", "\x7f\n", "\x1f\n", strings.Repeat("a", 201) + "\n"} {
-		_, e1 := Back(s)
-		_, e2 := Wavelet(s)
+		e1 := errOf(Back(s))
+		e2 := errOf(Wavelet(s))
 		if e1 != api.ErrArg || e2 != api.ErrArg {
 			t.Error(s, e1, e2)
 		}
@@ -271,10 +284,10 @@ func TestNotMade(t *testing.T) {
 	x, _ := New("abab")
 	other := *x
 	for _, x := range []*Index{nil, {}, &other} {
-		_, e1 := x.Count("\n")
-		_, e2 := x.Locate("a")
-		_, e3 := x.Rank('a', -1)
-		_, e4 := x.Extract(3, 1)
+		e1 := errOf(x.Count("\n"))
+		e2 := errOf(x.Locate("a"))
+		e3 := errOf(x.Rank('a', -1))
+		e4 := errOf(x.Extract(3, 1))
 		for i, e := range []api.Errno{e1, e2, e3, e4} {
 			if e != api.ErrNil {
 				t.Error(i, e)

@@ -18,6 +18,19 @@ func want[T any](t *testing.T, what string, got T, e api.Errno, expect T, err ap
 	}
 }
 
+// errOf returns the error of a call, and -1 if another result of a call with an error is not empty.
+func errOf(results ...any) api.Errno {
+	last := len(results) - 1
+	e := results[last].(api.Errno)
+	for _, x := range results[:last] {
+		v := reflect.ValueOf(x)
+		if e != api.OK && !v.IsZero() && (v.Kind() != reflect.Slice || v.Len() > 0) {
+			return -1
+		}
+	}
+	return e
+}
+
 // houseData is the Data of the document's examples, with a table more.
 func houseData() Data {
 	return Data{
@@ -272,13 +285,13 @@ func TestWellFormed(t *testing.T) {
 		{Op: "where", Kids: one, Test: &Test{Op: "or", Left: "a", Kids: []Test{*good, *good}}}, {Op: "where", Kids: one, Test: &Test{Op: "or", Kids: []Test{*good, {}}}}, {Op: "where", Kids: one, Test: &Test{Op: "not", Right: "a", Kids: []Test{*good}}},
 	} {
 		d := houseData()
-		_, e1 := Print(e)
-		_, e2 := Type(d, e)
-		_, e3 := Eval(d, e)
-		_, e4 := Work(d, e)
-		_, e5 := Push(d, e)
-		_, e6 := Pushed(d, e)
-		_, e7 := Compile(d, e)
+		e1 := errOf(Print(e))
+		e2 := errOf(Type(d, e))
+		e3 := errOf(Eval(d, e))
+		e4 := errOf(Work(d, e))
+		e5 := errOf(Push(d, e))
+		e6 := errOf(Pushed(d, e))
+		e7 := errOf(Compile(d, e))
 		for j, errno := range []api.Errno{e1, e2, e3, e4, e5, e6, e7} {
 			if errno != api.ErrArg {
 				t.Error(i, j, errno)
@@ -315,13 +328,13 @@ func TestData(t *testing.T) {
 		{"a": {column("a"), rows}}, {"a": {column("a"), [][]string{{"1"}, {"1"}}}}, {"a": {column("a"), [][]string{{"1", "2"}}}}, {"a": {column("a"), [][]string{{}}}}, {"a": {column("a"), [][]string{{"01"}}}}, {"a": {column("a"), [][]string{{"-0"}}}}, {"a": {column("a"), [][]string{{"100000000"}}}}, {"a": {column("a"), [][]string{{""}}}}, {"a": {column("a"), [][]string{{"x"}}}},
 		{"a": {text, [][]string{{"'"}}}}, {"a": {text, [][]string{{"\n"}}}}, {"a": {text, [][]string{{"abcdefghijklmnopqrstu"}}}}, {"a": {text, [][]string{{"\x7f"}}}},
 	} {
-		_, e1 := Type(d, lots)
-		_, e2 := Eval(d, lots)
-		_, e3 := Work(d, lots)
-		_, e4 := Push(d, lots)
-		_, e5 := Pushed(d, lots)
-		_, e6 := Compile(d, lots)
-		_, e7 := Run(d, nil)
+		e1 := errOf(Type(d, lots))
+		e2 := errOf(Eval(d, lots))
+		e3 := errOf(Work(d, lots))
+		e4 := errOf(Push(d, lots))
+		e5 := errOf(Pushed(d, lots))
+		e6 := errOf(Compile(d, lots))
+		e7 := errOf(Run(d, nil))
 		for j, errno := range []api.Errno{e1, e2, e3, e4, e5, e6, e7} {
 			if errno != api.ErrArg {
 				t.Error(i, j, errno)
@@ -364,12 +377,12 @@ func TestType(t *testing.T) {
 	} {
 		e := must(t, s)
 		d := houseData()
-		_, e1 := Type(d, e)
-		_, e2 := Eval(d, e)
-		_, e3 := Work(d, e)
-		_, e4 := Push(d, e)
-		_, e5 := Pushed(d, e)
-		_, e6 := Compile(d, e)
+		e1 := errOf(Type(d, e))
+		e2 := errOf(Eval(d, e))
+		e3 := errOf(Work(d, e))
+		e4 := errOf(Push(d, e))
+		e5 := errOf(Pushed(d, e))
+		e6 := errOf(Compile(d, e))
 		for j, errno := range []api.Errno{e1, e2, e3, e4, e5, e6} {
 			if errno != api.ErrType {
 				t.Error(s, j, errno)

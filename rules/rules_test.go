@@ -34,6 +34,19 @@ func want[T any](t *testing.T, what string, got T, e api.Errno, expect T, err ap
 	}
 }
 
+// errOf returns the error of a call, and -1 if another result of a call with an error is not empty.
+func errOf(results ...any) api.Errno {
+	last := len(results) - 1
+	e := results[last].(api.Errno)
+	for _, x := range results[:last] {
+		v := reflect.ValueOf(x)
+		if e != api.OK && !v.IsZero() && (v.Kind() != reflect.Slice || v.Len() > 0) {
+			return -1
+		}
+	}
+	return e
+}
+
 // arity is the number of Args that the samples give a Rel.
 func arity(rel int) int { return 1 + rel%2 }
 
@@ -154,15 +167,15 @@ func TestValid(t *testing.T) {
 		{nil, []api.Fact{fa(-1, 1)}}, {nil, []api.Fact{fa(6, 1)}}, {nil, []api.Fact{fa(0)}}, {nil, []api.Fact{fa(0, 1, 1, 1)}}, {nil, []api.Fact{fa(0, 0)}}, {nil, []api.Fact{fa(0, 7)}},
 	}
 	for i, x := range tests {
-		_, e1 := Model(x.l, x.facts)
-		_, e2 := Prove(x.l, x.facts, fa(0, 1))
-		_, e3 := Check(x.l, x.facts, Proof{})
-		_, e4 := Sources(x.l, x.facts, fa(0, 1))
-		_, _, e5 := Founded(x.l, x.facts)
+		e1 := errOf(Model(x.l, x.facts))
+		e2 := errOf(Prove(x.l, x.facts, fa(0, 1)))
+		e3 := errOf(Check(x.l, x.facts, Proof{}))
+		e4 := errOf(Sources(x.l, x.facts, fa(0, 1)))
+		e5 := errOf(Founded(x.l, x.facts))
 		e6, e7 := api.ErrArg, api.ErrArg
 		if x.facts == nil {
-			_, e6 = Strata(x.l)
-			_, e7 = Needed(x.l, 0)
+			e6 = errOf(Strata(x.l))
+			e7 = errOf(Needed(x.l, 0))
 		}
 		for j, e := range []api.Errno{e1, e2, e3, e4, e5, e6, e7} {
 			if e != api.ErrArg {
@@ -354,9 +367,9 @@ func TestSources(t *testing.T) {
 	l, e = Sources(loop, many, fa(1, 1))
 	want(t, "ErrArg before ErrSize", l, e, nil, api.ErrArg)
 	for _, f := range []api.Fact{fa(-1, 1), fa(6, 1), fa(0), fa(0, 1, 1, 1), fa(0, 0), fa(0, 7), fa(0, 1, -1<<63)} {
-		_, e1 := Sources(reach, steps, f)
-		_, e2 := Prove(reach, steps, f)
-		_, e3 := Prove(loop, nil, f)
+		e1 := errOf(Sources(reach, steps, f))
+		e2 := errOf(Prove(reach, steps, f))
+		e3 := errOf(Prove(loop, nil, f))
 		if e1 != api.ErrArg || e2 != api.ErrArg || e3 != api.ErrArg {
 			t.Error(f, e1, e2, e3)
 		}
