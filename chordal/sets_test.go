@@ -119,7 +119,7 @@ func TestCheckColours(t *testing.T) {
 		n  int
 		ok bool
 	}{
-		{[]int{0, 1, 0}, 2, true}, {[]int{11, 0, 5}, 3, true}, {[]int{0, 0, 1}, 0, false}, {[]int{1, 0, 0}, 0, false},
+		{[]int{0, 1, 0}, 2, true}, {[]int{11, 0, 5}, 3, true}, {[]int{11, 3, 11}, 2, true}, {[]int{0, 0, 1}, 0, false}, {[]int{1, 0, 0}, 0, false},
 		{[]int{0, 12, 0}, 0, false}, {[]int{0, -1, 0}, 0, false}, {[]int{0, 1}, 0, false}, {[]int{0, 1, 0, 1}, 0, false}, {nil, 0, false}, {[]int{0, 1 << 62, 0}, 0, false},
 	} {
 		n, ok, e := CheckColours(path, x.l)

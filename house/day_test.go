@@ -38,6 +38,12 @@ func TestDay(t *testing.T) {
 		{"put has all bays", calls("0 put 1 0", "1 put 2 5", "1 end", "0 end"), []string{"put", "put"}, []string{"put 1 0", "put 2 5"}},
 		{"put has its lot", calls("0 close 1", "1 put 1 5", "1 end", "0 end"), []string{"close", "!"}, []string{"close 1"}},
 		{"put has not all lots", calls("0 take mace 5", "1 put 1 5", "1 end", "0 end"), []string{"put", "take 3"}, []string{"put 1 5", "take mace 5"}},
+		{"the grams are no lot", calls("0 blend 1 2 3", "1 test 3 good", "1 end", "0 end"), []string{"!", "blend 3"}, []string{"blend 1 2 3"}},
+		{"the bay is no lot", calls("0 put 1 2", "1 test 2 good", "1 end", "0 end"), []string{"test", "put"}, []string{"test 2 good", "put 1 2"}},
+		{"no lot is all bays", calls("0 put 1 0", "1 test 4 good", "1 end", "2 touch 2 3", "2 end", "0 end"), []string{"!", "!", "put"}, []string{"put 1 0"}},
+		{"no lot is all lots", calls("0 take mace 5", "1 touch 4 3", "1 end", "2 touch 1 2", "2 end", "0 end"), []string{"!", "touch", "take 3"}, []string{"touch 1 2", "take mace 5"}},
+		// Transaction 3 reads what transaction 2 reads, so that neither can write: the one that begins to wait last aborts.
+		{"reads come before writes", calls("0 test 2 good", "1 touch 1 2", "2 test 1 good", "0 end", "1 end", "2 end"), []string{"test", "test"}, []string{"test 2 good", "test 1 good"}},
 		{"a cycle aborts the second one", calls("0 test 1 good", "1 test 2 good", "0 test 2 bad", "1 test 1 bad", "0 end", "1 end"), []string{"test", "test"}, []string{"test 1 good", "test 2 bad"}},
 		{"a line that is passed over", calls("0 take mace 0", "0 put 9 1", "0 put 1 9", "0 close 1", "0 close 1", "0 touch 1 1", "0 end"), []string{"!", "!", "!", "close", "!", "!"}, []string{"close 1"}},
 		{"the commit of what waits comes late", calls("0 test 1 good", "1 test 1 bad", "2 test 2 good", "1 end", "2 end", "0 end"), []string{"test", "test", "test"}, []string{"test 2 good", "test 1 good", "test 1 bad"}},

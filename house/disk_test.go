@@ -89,6 +89,8 @@ func TestDisk(t *testing.T) {
 	d.Crash(0)
 	wantBytes(t, d, "abcdexyzu")
 	want(t, "Append", 0, d.Append([]byte("12")), 0, api.ErrFull)
+	want(t, "Cut of nothing", 0, d.Cut(9), 0, api.OK)
+	wantBytes(t, d, "abcdexyzu")
 	want(t, "Cut", 0, d.Cut(0), 0, api.OK)
 	wantBytes(t, d, "")
 }

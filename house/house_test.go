@@ -89,7 +89,7 @@ func TestExample(t *testing.T) {
 
 func TestForms(t *testing.T) {
 	h := open(t)
-	do(t, h, step{"take a 1", "take 1", api.OK}, step{"take abcdefgh 999999", "take 2", api.OK})
+	do(t, h, step{"take a 1", "take 1", api.OK}, step{"take abcdefgz 999999", "take 2", api.OK})
 	for _, s := range []string{
 		"", " ", "take", "take mace", "take mace 5 5", "take  mace 5", " take mace 5", "take mace 5 ", "take mace\t5", "take mace 5\n", "Take mace 5", "take Mace 5", "take abcdefghi 5", "take mac3 5",
 		"take mace 05", "take mace 00", "take mace -5", "take mace +5", "take mace 1000000", "take mace 99999999999999999999", "take mace 5.0", "take mace x",
@@ -100,13 +100,13 @@ func TestForms(t *testing.T) {
 		want(t, "Do "+s, got, e, "", api.ErrForm)
 	}
 	for _, s := range []string{
-		"", " ", "lots ", " lots", "lots 1", "traced 1", "sure x", "find", "find ", "find  a", "find a  b", "find a ", "ask", "ask ", "ask  lots", "Lots", "take mace 5", "end", "find \n", "ask " + strings.Repeat("a", 197), "find " + strings.Repeat("a", 196),
+		"", " ", "lots ", " lots", "lots 1", "traced 1", "sure x", "find", "find ", "find  a", "find a  b", "find a ", "ask", "ask ", "ask  lots", "Lots", "take mace 5", "end", "find \n", "find \x7f", "ask " + strings.Repeat("a", 197), "find " + strings.Repeat("a", 196),
 		"ask lots where", "ask (lots)", "ask (lots where id = 1))",
 	} {
 		got, e := h.Ask(s)
 		want(t, "Ask "+s, got, e, "", api.ErrForm)
 	}
-	ask(t, h, step{"find " + strings.Repeat("a", 195), "find", api.OK})
+	ask(t, h, step{"find " + strings.Repeat("a", 195), "find", api.OK}, step{"find ~", "find", api.OK})
 	if len(h.Journal()) != 2 {
 		t.Error("an error came into the journal")
 	}

@@ -76,17 +76,21 @@ func someExpr(r *rand.Rand, deep int) Expr {
 		return Expr{Op: "join", Kids: []Expr{kid(), kid()}}
 	case 7, 8:
 		k := kid()
-		l := kid()
-		if r.Intn(4) > 0 {
-			l = k
-			if r.Intn(2) == 0 {
-				x := someTest(r, 1)
-				l = Expr{Op: "where", Test: &x, Kids: []Expr{k}}
-			}
+		l := k
+		if r.Intn(4) == 0 {
+			l = kid()
 		}
-		return Expr{Op: []string{"plus", "minus"}[r.Intn(2)], Kids: []Expr{l, k}}
+		return Expr{Op: []string{"plus", "minus"}[r.Intn(2)], Kids: []Expr{sometimesWhere(r, l), sometimesWhere(r, k)}}
 	}
 	return Expr{Op: "count", Name: names[r.Intn(8)], Names: pick(0, 2), Kids: []Expr{kid()}}
+}
+
+func sometimesWhere(r *rand.Rand, e Expr) Expr {
+	if r.Intn(3) == 0 {
+		return e
+	}
+	x := someTest(r, 1)
+	return Expr{Op: "where", Test: &x, Kids: []Expr{e}}
 }
 
 func someTest(r *rand.Rand, deep int) Test {
@@ -129,6 +133,7 @@ func TestParsePrint(t *testing.T) {
 		"(a where (not a < -5 or b = ') ('))": {},
 		"(a count by by)":                     {Op: "count", Name: "by", Kids: []Expr{{Op: "table", Name: "a"}}},
 		"(a count n by by n)":                 {Op: "count", Name: "n", Names: []string{"by", "n"}, Kids: []Expr{{Op: "table", Name: "a"}}},
+		"(z name zz yz)":                      {Op: "name", Names: []string{"zz", "yz"}, Kids: []Expr{{Op: "table", Name: "z"}}},
 		"(a name b b)":                        {Op: "name", Names: []string{"b", "b"}, Kids: []Expr{{Op: "table", Name: "a"}}},
 		"((a join b) minus (c plus d))":       {},
 		"(a where not not '' = 0)":            {},
@@ -280,7 +285,7 @@ func TestWellFormed(t *testing.T) {
 		{Op: "name", Kids: one, Names: []string{"a"}}, {Op: "name", Kids: one, Names: []string{"a", "b", "c"}}, {Op: "name", Kids: one, Names: []string{"a", "not"}},
 		{Op: "join", Kids: one}, {Op: "plus", Kids: append(two, lots)}, {Op: "minus", Kids: two, Name: "a"}, {Op: "join", Kids: two, Test: good}, {Op: "join", Kids: []Expr{lots, {}}},
 		{Op: "count", Kids: one}, {Op: "count", Kids: one, Name: "n", Names: eight}, {Op: "count", Kids: one, Name: "n", Names: []string{"a", "a"}}, {Op: "count", Kids: one, Name: "abcdefghi"}, {Op: "count", Kids: two, Name: "n"},
-		{Op: "where", Kids: one, Test: &Test{}}, {Op: "where", Kids: one, Test: &Test{Op: ">", Left: "a", Right: "b"}}, {Op: "where", Kids: one, Test: &Test{Op: "=", Left: "a"}}, {Op: "where", Kids: one, Test: &Test{Op: "=", Left: "a", Right: "'"}},
+		{Op: "where", Kids: one, Test: &Test{}}, {Op: "where", Kids: one, Test: &Test{Op: "nor", Kids: []Test{*good}}}, {Op: "where", Kids: one, Test: &Test{Op: "nor", Kids: []Test{*good, *good}}}, {Op: "where", Kids: one, Test: &Test{Op: ">", Left: "a", Right: "b"}}, {Op: "where", Kids: one, Test: &Test{Op: "=", Left: "a"}}, {Op: "where", Kids: one, Test: &Test{Op: "=", Left: "a", Right: "'"}},
 		{Op: "where", Kids: one, Test: &Test{Op: "=", Left: "a", Right: "b", Kids: []Test{*good}}}, {Op: "where", Kids: one, Test: &Test{Op: "not", Kids: []Test{*good, *good}}}, {Op: "where", Kids: one, Test: &Test{Op: "and", Kids: []Test{*good}}},
 		{Op: "where", Kids: one, Test: &Test{Op: "or", Left: "a", Kids: []Test{*good, *good}}}, {Op: "where", Kids: one, Test: &Test{Op: "or", Kids: []Test{*good, {}}}}, {Op: "where", Kids: one, Test: &Test{Op: "not", Right: "a", Kids: []Test{*good}}},
 	} {
@@ -356,11 +361,13 @@ func TestData(t *testing.T) {
 func TestType(t *testing.T) {
 	id, spice, n := Column{"id", false}, Column{"spice", true}, Column{"n", false}
 	for s, l := range map[string][]Column{
-		"lots":                               {id, spice},
-		"(lots keep spice id)":               {spice, id},
-		"(lots name id n)":                   {n, spice},
-		"(bays join tests)":                  {{"bay", false}, spice, id, {"ok", false}},
-		"(lots count n by spice)":            {spice, n},
+		"lots":                                  {id, spice},
+		"(lots keep spice id)":                  {spice, id},
+		"(lots name id n)":                      {n, spice},
+		"(bays join tests)":                     {{"bay", false}, spice, id, {"ok", false}},
+		"(lots count n by spice)":               {spice, n},
+		"((lots keep spice) where spice = 'z')": {spice},
+		"((((lots name id a) name spice b) join ((bays name bay c) name id d)) join ((tests name id z) join (lots keep id)))": {{"a", false}, {"b", true}, {"c", false}, spice, {"d", false}, {"z", false}, {"ok", false}, id},
 		"(lots count id by)":                 {id},
 		"(lots plus (lots minus lots))":      {id, spice},
 		"((lots where 'a' < spice) keep id)": {id},
@@ -371,7 +378,7 @@ func TestType(t *testing.T) {
 	}
 	for _, s := range []string{
 		"none", "(none keep a)", "(lots where id = spice)", "(lots where id = 'x')", "(lots where 5 < spice)", "(lots where 5 = 'x')", "(lots where n = 5)", "(lots where 5 = n)", "(lots where (id = 1 and not (spice = 1 or id = 1)))",
-		"(lots keep n)", "(lots keep id n)", "(lots name n m)", "(lots name id spice)", "(lots name id id)", "(tests join ((lots keep spice) name spice ok))",
+		"(lots keep n)", "(lots keep id n)", "(lots name n m)", "(lots name id spice)", "(lots name id id)", "(tests join ((lots keep spice) name spice ok))", "(((lots keep spice) name spice ok) join tests)", "((lots keep spice) where spice = 5)",
 		"(lots plus tests)", "(lots minus (lots keep spice id))", "(lots plus (lots keep id))", "(lots count id by id)", "(lots count n by x)",
 		"((((bays name id a) name spice b) name bay c) join ((((bays name id d) name spice e) name bay f) join (bays name bay g)))",
 	} {

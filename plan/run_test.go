@@ -260,7 +260,7 @@ func TestSize(t *testing.T) {
 	}
 	n, errno := Work(d, e)
 	want(t, "Work", n, errno, 2120, api.OK)
-	for _, s := range []string{"(a join c)", "((a join c) where 1 = 2)", "((a join c) count n by)", "((a join b) plus ((a join c) where not y = 0))"} {
+	for _, s := range []string{"(a join c)", "(c join a)", "((a join c) where 1 = 2)", "((a join c) count n by)", "((a join b) plus ((a join c) where not y = 0))"} {
 		e := must(t, s)
 		got, errno := Eval(d, e)
 		want(t, "Eval", got, errno, Table{}, api.ErrSize)
@@ -308,7 +308,7 @@ func TestRunArguments(t *testing.T) {
 	bad := &Test{Op: "=", Left: "id", Right: "'x'"}
 	for i, l := range [][]Instr{
 		nil, {lots, lots}, {{Op: 1, Test: test, N: 1}}, {lots, {Op: 1, Test: test}}, {lots, {Op: 1, Test: test, N: 2}}, {lots, {Op: 1, N: 1}}, {lots, {Op: 1, Test: bad, N: 1}},
-		{{Name: "none"}}, {{}}, {{Op: -1, Name: "lots"}}, {{Op: 8, Name: "lots"}}, {{Op: 1 << 62, Name: "lots"}}, {{Name: "lots", N: 1}}, {{Name: "lots", N: -1}}, {{Name: "lots", N: -1 << 63}}, {{Name: "lots", Names: []string{"a"}}}, {{Name: "lots", Test: test}},
+		{{Name: "none"}}, {{}}, {{Op: -1, Name: "lots"}}, {lots, lots, {Op: -1, N: 2}}, {lots, lots, {Op: 8, N: 2}}, {{Op: 8, Name: "lots"}}, {{Op: 1 << 62, Name: "lots"}}, {{Name: "lots", N: 1}}, {{Name: "lots", N: -1}}, {{Name: "lots", N: -1 << 63}}, {{Name: "lots", Names: []string{"a"}}}, {{Name: "lots", Test: test}},
 		{lots, {Op: 4, N: 2}}, {lots, lots, {Op: 4, N: 1}}, {lots, lots, lots, {Op: 4, N: 3}}, {lots, lots, {Op: 4, N: 2, Name: "a"}}, {lots, {Op: 2, N: 1}}, {lots, {Op: 2, N: 1, Names: []string{"ok"}}}, {lots, {Op: 2, N: 1, Names: []string{"id"}, Test: test}},
 		{lots, {Name: "tests"}, {Op: 5, N: 2}}, slices.Concat(slices.Repeat([]Instr{lots}, 51), slices.Repeat([]Instr{{Op: 5, N: 2}}, 50)), slices.Repeat([]Instr{lots}, 101),
 	} {
@@ -317,6 +317,12 @@ func TestRunArguments(t *testing.T) {
 			t.Error(i, got, errno)
 		}
 	}
+}
+
+func TestRunLimit(t *testing.T) {
+	l := slices.Concat(slices.Repeat([]Instr{{Name: "lots"}, {Name: "lots"}, {Op: 5, N: 2}}, 25), slices.Repeat([]Instr{{Op: 5, N: 2}}, 24), []Instr{{Op: 2, N: 1, Names: []string{"id"}}})
+	got, errno := Run(houseData(), l)
+	want(t, "100 instructions", got, errno, Table{[]Column{{"id", false}}, [][]string{{"1"}, {"2"}, {"3"}}}, api.OK)
 }
 
 func count(e Expr) int {

@@ -65,7 +65,7 @@ func TestProve(t *testing.T) {
 	want(t, "another number of Args", p, e, Proof{}, api.ErrNone)
 	p, e = Prove(loop, []api.Fact{fa(0, 1)}, fa(0, 1))
 	want(t, "no strata", p, e, Proof{}, api.ErrLoop)
-	sample(5, func(r *rand.Rand, l []Rule, facts []api.Fact) {
+	tryProve := func(r *rand.Rand, l []Rule, facts []api.Fact) {
 		m, e := Model(l, facts)
 		if e != api.OK {
 			return
@@ -84,7 +84,9 @@ func TestProve(t *testing.T) {
 				t.Error(l, facts, f, p, e)
 			}
 		}
-	})
+	}
+	sample(5, tryProve)
+	layered(tryProve)
 }
 
 // TestProveWidth has proofs that double at each step: the fact R5 i needs the one before it twice.
@@ -106,6 +108,15 @@ func TestProveWidth(t *testing.T) {
 	want(t, "729 nodes", p, e, Proof{}, api.ErrSize)
 	p, e = Prove(l, []api.Fact{fa(5, 1)}, fa(3, 1))
 	want(t, "526 nodes", p, e, Proof{}, api.ErrSize)
+	// 364 + 121 + 13 + 1 and one more are 500, and 501 are too many.
+	l = append(l, rule(at(1, -5), is(5, -6), is(5, -5), is(5, -3)), rule(at(1, -4), is(1, -5)), rule(at(1, -3), is(1, -4)))
+	p, e = Prove(l, []api.Fact{fa(5, 1)}, fa(1, 4))
+	if n, d := measure(p); n != 500 || d != 8 || e != api.OK {
+		t.Error(n, d, e)
+	}
+	p, e = Prove(l, []api.Fact{fa(5, 1)}, fa(1, 3))
+	want(t, "501 nodes", p, e, Proof{}, api.ErrSize)
+	l = l[:len(l)-3]
 	// A longer way is taken where the short one is too large.
 	l = append(l, rule(at(2, 0), is(1, 0)), rule(at(0, -1), is(2, -2)), rule(at(4, -1), is(0, -1)))
 	p, e = Prove(l, []api.Fact{fa(5, 1), fa(1, 2)}, fa(4, 1))

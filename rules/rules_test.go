@@ -92,6 +92,35 @@ func sample(nots int, f func(r *rand.Rand, l []Rule, facts []api.Fact)) {
 	}
 }
 
+// layered calls f with rules that have strata: a Lit with Not has a Rel that is less than the Head's.
+func layered(f func(r *rand.Rand, l []Rule, facts []api.Fact)) {
+	r := rand.New(rand.NewSource(11))
+	for range 300 {
+		var l []Rule
+		for len(l) < 2+r.Intn(7) {
+			x := rule(someAtom(r, []int{0, 1, 2, 0, 1, -1}))
+			for range 1 + r.Intn(3) {
+				lit := Lit{r.Intn(3) == 0, someAtom(r, []int{0, 1, 2, 0, 1, 7})}
+				if lit.Atom.Rel < x.Head.Rel || lit.Atom.Rel == x.Head.Rel && !lit.Not {
+					x.Body = append(x.Body, lit)
+				}
+			}
+			if valid([]Rule{x}, nil) && len(x.Body) > 0 {
+				l = append(l, x)
+			}
+		}
+		var facts []api.Fact
+		for range 2 + r.Intn(8) {
+			g := fa(r.Intn(3))
+			for range arity(g.Rel) {
+				g.Args = append(g.Args, 1+r.Intn(3))
+			}
+			facts = append(facts, g)
+		}
+		f(r, l, facts)
+	}
+}
+
 type slowInstance struct {
 	rule, head int
 	need, deny []int
@@ -249,7 +278,9 @@ func TestModel(t *testing.T) {
 	want(t, "rules without facts", l, e, []api.Fact{fa(0, 1, 2), fa(1, 2), fa(2, 1)}, api.OK)
 	l, e = Model([]Rule{rule(at(0, 0, 0), is(1, 0))}, []api.Fact{fa(0, 4, 5), fa(1, 6)})
 	want(t, "given facts of a Head's Rel", l, e, []api.Fact{fa(0, 4, 5), fa(0, 6, 6), fa(1, 6)}, api.OK)
-	sample(4, func(r *rand.Rand, l []Rule, facts []api.Fact) {
+	l, e = Model([]Rule{rule(at(1, 0), is(0, 0)), rule(at(2, 0), is(0, 0), not(1, 0)), rule(at(3, 0), is(0, 0), not(2, 0))}, []api.Fact{fa(0, 1)})
+	want(t, "three strata", l, e, []api.Fact{fa(0, 1), fa(1, 1), fa(3, 1)}, api.OK)
+	tryModel := func(r *rand.Rand, l []Rule, facts []api.Fact) {
 		m, e := Model(l, facts)
 		s := slowStrata(l)
 		if s == nil {
@@ -270,7 +301,9 @@ func TestModel(t *testing.T) {
 		if closed := slowConsequences(all, there, there); len(closed) != len(there) {
 			t.Error("not a model", l, facts, m)
 		}
-	})
+	}
+	sample(4, tryModel)
+	layered(tryModel)
 	sample(0, func(r *rand.Rand, l []Rule, facts []api.Fact) {
 		m, _ := Model(l, facts)
 		more, _ := Model(l, append(someFacts(r), facts...))
@@ -292,7 +325,7 @@ func TestFounded(t *testing.T) {
 	yes, open, e = Founded(game, []api.Fact{fa(0, 1, 2), fa(0, 2, 1), fa(0, 3, 4)})
 	want(t, "true", yes, e, []api.Fact{fa(0, 1, 2), fa(0, 2, 1), fa(0, 3, 4), fa(1, 3)}, api.OK)
 	want(t, "open", open, e, []api.Fact{fa(1, 1), fa(1, 2)}, api.OK)
-	sample(2, func(r *rand.Rand, l []Rule, facts []api.Fact) {
+	tryFounded := func(r *rand.Rand, l []Rule, facts []api.Fact) {
 		yes, open, e := Founded(l, facts)
 		all, given := slowInstances(l), setOf(facts)
 		sure, possible := factSet{}, factSet{}
@@ -310,7 +343,9 @@ func TestFounded(t *testing.T) {
 		yes2, open2, _ := Founded(turnRules(l, turn), turnFacts(facts, turn))
 		want(t, "true, permuted", setOf(yes2).list(), e, setOf(turnFacts(yes, turn)).list(), api.OK)
 		want(t, "open, permuted", setOf(open2).list(), e, setOf(turnFacts(open, turn)).list(), api.OK)
-	})
+	}
+	sample(2, tryFounded)
+	layered(tryFounded)
 }
 
 func turnAtom(a match.Atom, turn []int) match.Atom {
@@ -364,7 +399,7 @@ func TestSources(t *testing.T) {
 	want(t, "10 facts", l, e, []int{1, 2, 4, 8, 16, 32, 64, 128, 256, 512}, api.OK)
 	l, e = Sources(reach, many, fa(1, 1, 1))
 	want(t, "11 facts", l, e, nil, api.ErrSize)
-	l, e = Sources(loop, many, fa(1, 1))
+	l, e = Sources(loop, slices.Repeat([]api.Fact{fa(0, 1)}, 11), fa(1, 1))
 	want(t, "ErrArg before ErrSize", l, e, nil, api.ErrArg)
 	for _, f := range []api.Fact{fa(-1, 1), fa(6, 1), fa(0), fa(0, 1, 1, 1), fa(0, 0), fa(0, 7), fa(0, 1, -1<<63)} {
 		e1 := errOf(Sources(reach, steps, f))
@@ -374,7 +409,14 @@ func TestSources(t *testing.T) {
 			t.Error(f, e1, e2, e3)
 		}
 	}
-	sample(0, func(r *rand.Rand, l []Rule, facts []api.Fact) {
+	trySources := func(r *rand.Rand, l []Rule, facts []api.Fact) {
+		for i := range l {
+			positive := rule(l[i].Head)
+			for _, x := range l[i].Body {
+				positive.Body = append(positive.Body, Lit{false, x.Atom})
+			}
+			l[i] = positive
+		}
 		all := slowInstances(l)
 		m := slowConsequences(all, setOf(facts), factSet{}).list()
 		if len(m) == 0 {
@@ -403,7 +445,32 @@ func TestSources(t *testing.T) {
 				t.Error(l, facts, f, sources, set)
 			}
 		}
-	})
+	}
+	sample(0, trySources)
+	layered(trySources)
+	// What is known of R1 2 and so of R2 2 changes when R3 2 is found at last.
+	late := []Rule{rule(at(1, 0), is(0, 0)), rule(at(2, 0), is(1, 0)), rule(at(3, 0), is(4, 0)), rule(at(5, 0), is(3, 0)), rule(at(1, 0), is(5, 0))}
+	l, e = Sources(late, []api.Fact{fa(0, 2), fa(4, 2)}, fa(2, 2))
+	want(t, "a source that is found late", l, e, []int{1, 2}, api.OK)
+	// A chain from 1 to 6 by ten steps, of which each may be the one or the other.
+	var twice []api.Fact
+	for i := range 5 {
+		twice = append(twice, fa(0, i+1, i+2), fa(2, i+1, i+2))
+	}
+	either := []Rule{rule(at(1, 0, 1), is(0, 0, 1)), rule(at(1, 0, 1), is(2, 0, 1)), rule(at(3, 0, 1), is(1, 0, 1)), rule(at(3, 0, 2), is(3, 0, 1), is(1, 1, 2))}
+	l, e = Sources(either, twice, fa(3, 1, 6))
+	var expect []int
+	for set := range 1 << 10 {
+		ok := true
+		for i := range 5 {
+			step := set >> (2 * i) & 3
+			ok = ok && (step == 1 || step == 2)
+		}
+		if ok {
+			expect = append(expect, set)
+		}
+	}
+	want(t, "ten facts", l, e, expect, api.OK)
 }
 
 func TestNeeded(t *testing.T) {
@@ -435,7 +502,7 @@ func TestNeeded(t *testing.T) {
 	if reach[0].Head.Args[0] != 0 || reach[1].Body[0].Atom.Args[0] != 0 {
 		t.Error("the result shares memory with the rules")
 	}
-	sample(4, func(r *rand.Rand, l []Rule, facts []api.Fact) {
+	tryNeeded := func(r *rand.Rand, l []Rule, facts []api.Fact) {
 		m, e := Model(l, facts)
 		for rel := range 6 {
 			some, f := Needed(l, rel)
@@ -444,7 +511,9 @@ func TestNeeded(t *testing.T) {
 				t.Error(l, facts, rel, some)
 			}
 		}
-	})
+	}
+	sample(4, tryNeeded)
+	layered(tryNeeded)
 }
 
 func ofRel(l []api.Fact, rel int) []api.Fact {
