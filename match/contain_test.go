@@ -188,6 +188,8 @@ func TestCore(t *testing.T) {
 	want(t, "Core of loops", l, e, []int{2}, api.OK)
 	l, e = Core(query([]int{1}, at(0, 0), at(0, 1)))
 	want(t, "Core with the Head", l, e, []int{1}, api.OK)
+	l, e = Core(query(nil, at(0, 0), at(0, 1), at(1, 1), at(1, 0)))
+	want(t, "0 3 comes before 1 2", l, e, []int{0, 3}, api.OK)
 	sample(func(r *rand.Rand, q Query, facts []api.Fact) {
 		l, e := Core(q)
 		want(t, "Core", l, e, slowCore(q), api.OK)
